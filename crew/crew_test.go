@@ -389,17 +389,17 @@ func TestNoMoreWorkers(t *testing.T) {
 
 // The chapter's Workers: those that have nothing to do count too: no more goroutines are there than may be, and one or two more that do no thing.
 func TestNoIdleWorkers(t *testing.T) {
-	before := runtime.NumGoroutine()
+	before := running()
 	for name, call := range kinds {
 		for _, many := range []int{1, 2, 5, 16, 17, 60} {
 			for _, workers := range asked {
 				if !goneTo(before) {
-					t.Fatalf("%d goroutines, of which %d were there", runtime.NumGoroutine(), before)
+					t.Fatalf("%d goroutines, of which %d were there", running(), before)
 				}
 				var most atomic.Int32
 				call(many, workers, func(n int) {
 					if n == 0 {
-						most.Store(int32(runtime.NumGoroutine()))
+						most.Store(int32(running()))
 					}
 				})
 				if got := int(most.Load()) - before; got > limit(many, workers)+2 {
@@ -463,10 +463,16 @@ func TestAsManyWorkers(t *testing.T) {
 	}
 }
 
+// running is how many goroutines there are, counted while all stand still: runtime.NumGoroutine is out by dozens where some begin and end meanwhile.
+func running() int {
+	n, _ := runtime.GoroutineProfile(make([]runtime.StackRecord, 200))
+	return n
+}
+
 // goneTo waits till no more goroutines run than so many.
 func goneTo(many int) bool {
 	for end := time.Now().Add(patience); time.Now().Before(end); time.Sleep(time.Millisecond) {
-		if runtime.NumGoroutine() <= many {
+		if running() <= many {
 			return true
 		}
 	}
@@ -475,7 +481,7 @@ func goneTo(many int) bool {
 
 // LANGUAGE 6, the chapter's Workers: when a call answers no worker is in the midst of a thing, none looks at another one ever, and all end.
 func TestAllHaveEnded(t *testing.T) {
-	before := runtime.NumGoroutine()
+	before := running()
 	for _, workers := range asked {
 		for _, first := range []int{-1, 0, 3, 20} {
 			var within, looked atomic.Int32
@@ -505,7 +511,7 @@ func TestAllHaveEnded(t *testing.T) {
 		}
 	}
 	if !goneTo(before) {
-		t.Errorf("%d goroutines, of which %d were there", runtime.NumGoroutine(), before)
+		t.Errorf("%d goroutines, of which %d were there", running(), before)
 	}
 }
 
